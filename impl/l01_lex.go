@@ -188,3 +188,63 @@ func JoinTokens(list []Token) (string, int) {
 	}
 	return strings.Join(texts, " "), OK
 }
+
+// A tokenReader has read the tokens ahead of its place, at. Readers of documents and of schemas
+// are built on it.
+type tokenReader struct {
+	tokens []Token
+	at     int
+}
+
+func (r *tokenReader) ended() bool { return r.at == len(r.tokens) }
+
+// next is the token at the reader's place, one without a kind behind the last.
+func (r *tokenReader) next() Token {
+	if r.ended() {
+		return Token{}
+	}
+	return r.tokens[r.at]
+}
+
+func (r *tokenReader) atPunct(t string) bool {
+	return r.next() == Token{Kind: TkPunct, T: t}
+}
+
+// passes goes past the mark, if it stands here.
+func (r *tokenReader) passes(t string) bool {
+	if !r.atPunct(t) {
+		return false
+	}
+	r.at++
+	return true
+}
+
+func (r *tokenReader) mustPass(t string) {
+	if !r.passes(t) {
+		panic(fault{ErrForm})
+	}
+}
+
+// nameIfAny is empty where no name stands.
+func (r *tokenReader) nameIfAny() string {
+	k := r.next()
+	if k.Kind != TkName {
+		return ""
+	}
+	r.at++
+	return k.T
+}
+
+func (r *tokenReader) name() string {
+	t := r.nameIfAny()
+	if t == "" {
+		panic(fault{ErrForm})
+	}
+	return t
+}
+
+func (r *tokenReader) mustPassWord(t string) {
+	if r.name() != t {
+		panic(fault{ErrForm})
+	}
+}
