@@ -264,8 +264,8 @@ func TestDocumentsThatAreNotRight(t *testing.T) {
 	}
 }
 
-// endlessDocs have lists that hold themselves, or share memory so that they are too great to be gone through.
-func endlessDocs() []impl.Doc {
+// endlessSets hold themselves, or stand in one another beyond all bounds.
+func endlessSets() [][]impl.Sel {
 	ring := []impl.Sel{field("a"), field("b")}
 	ring[1].Sels = ring
 	twins := make([]impl.Sel, 1)
@@ -275,21 +275,35 @@ func endlessDocs() []impl.Doc {
 	for range 100 {
 		wide = []impl.Sel{field("a", wide...), field("b", wide...)}
 	}
-	few := fields(4)
-	for range 6 {
-		few = []impl.Sel{field("a", few...), inline("", few...), field("b", few...)}
-	}
 	deep := field("b")
 	for range 200000 {
 		deep = impl.Sel{Kind: impl.SeField, Name: "a", Sels: []impl.Sel{deep}}
 	}
 	spreads := []impl.Sel{spread("f")}
 	spreads[0].Sels = spreads
-	return []impl.Doc{
-		docWith(ring...), docWith(twins...), docWith(wide...), docWith(few...), docWith(deep), docWith(spreads...),
-		docOf(fragment("f", "T", field("a")), fragment("g", "T", ring...)), docOf(slices.Repeat([]impl.Def{query("", wide...)}, 6)...),
-		docWith(slices.Repeat(ring, 20000)...), docOf(slices.Repeat([]impl.Def{query("", ring...)}, 20000)...),
+	return [][]impl.Sel{ring, twins, wide, {deep}, spreads}
+}
+
+// sharingSet is of few lists in memory, seven in one another, but of 4008 selections.
+func sharingSet() []impl.Sel {
+	few := fields(4)
+	for range 6 {
+		few = []impl.Sel{field("a", few...), inline("", few...), field("b", few...)}
 	}
+	return few
+}
+
+// endlessDocs have lists that hold themselves, or share memory so that they are too great to be gone through.
+func endlessDocs() []impl.Doc {
+	docs := []impl.Doc{docWith(sharingSet()...)}
+	sets := endlessSets()
+	for _, set := range sets {
+		docs = append(docs, docWith(set...))
+	}
+	ring, wide := sets[0], sets[2]
+	return append(docs,
+		docOf(fragment("f", "T", field("a")), fragment("g", "T", ring...)), docOf(slices.Repeat([]impl.Def{query("", wide...)}, 6)...),
+		docWith(slices.Repeat(ring, 20000)...), docOf(slices.Repeat([]impl.Def{query("", ring...)}, 20000)...))
 }
 
 func TestEndlessDocuments(t *testing.T) {

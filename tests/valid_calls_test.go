@@ -125,41 +125,51 @@ func docsForValid(t *testing.T) []impl.Doc {
 	return docs
 }
 
+// withRoom is the list in memory of its own, where another element stands behind its end.
+func withRoom[T any](list []T, behind T) []T { return append(slices.Clone(list), behind)[:len(list)] }
+
+// behind is the element that withRoom put behind the list's end.
+func behind[T any](list []T) T { return list[:len(list)+1][len(list)] }
+
+// roomyDoc is the document with room behind its lists.
+func roomyDoc(d impl.Doc) impl.Doc {
+	d.Defs = withRoom(d.Defs, fragment("behind", "T", spread("behind")))
+	for i := range d.Defs {
+		set := withRoom(d.Defs[i].Sels, field("behind"))
+		d.Defs[i].Sels = set
+		for k := range set {
+			x := &set[k]
+			x.Args, x.Dirs, x.Sels = withRoom(x.Args, arg("behind", yes)), withRoom(x.Dirs, skip(null)), withRoom(x.Sels, field("behind"))
+		}
+	}
+	return d
+}
+
+// wantRoomAsItWas fails if something was written behind the lists of a roomyDoc.
+func wantRoomAsItWas(t *testing.T, d impl.Doc) {
+	t.Helper()
+	ok := reflect.DeepEqual(behind(d.Defs), fragment("behind", "T", spread("behind")))
+	for _, f := range d.Defs {
+		ok = ok && reflect.DeepEqual(behind(f.Sels), field("behind"))
+		for _, x := range f.Sels {
+			ok = ok && behind(x.Args) == arg("behind", yes) && behind(x.Dirs) == skip(null) && reflect.DeepEqual(behind(x.Sels), field("behind"))
+		}
+	}
+	if !ok {
+		t.Fatal("a call wrote behind a list of its document")
+	}
+}
+
 func TestArgumentsOfValidStay(t *testing.T) {
 	plain := impl.PlainSchema()
 	for _, d := range docsForValid(t) {
-		backing := append(slices.Clone(d.Defs), fragment("behind", "T", spread("behind")))
-		d = impl.Doc{Defs: backing[:len(d.Defs)]}
-		var rooms [][]impl.Sel
-		for i := range d.Defs {
-			room := append(slices.Clone(d.Defs[i].Sels), spread("behind"), field("behind"))
-			rooms = append(rooms, room)
-			d.Defs[i].Sels = room[:len(room)-2]
-			for k := range d.Defs[i].Sels {
-				x := &d.Defs[i].Sels[k]
-				x.Args = append(slices.Clone(x.Args), arg("behind", yes))[:len(x.Args)]
-				x.Sels = append(slices.Clone(x.Sels), field("behind"))[:len(x.Sels)]
-			}
-		}
-		ahead, room := tidied(d), tidied(impl.Doc{Defs: backing})
-		var behind []impl.Doc
-		for _, room := range rooms {
-			behind = append(behind, tidied(docWith(room...)))
-		}
+		d = roomyDoc(d)
+		ahead := tidied(d)
 		answersOfValid(plain, d)
-		if !reflect.DeepEqual(tidied(d), ahead) || !reflect.DeepEqual(tidied(impl.Doc{Defs: backing}), room) {
+		if !reflect.DeepEqual(tidied(d), ahead) {
 			t.Fatal("a call changed its document")
 		}
-		for i, room := range rooms {
-			if !reflect.DeepEqual(tidied(docWith(room...)), behind[i]) {
-				t.Fatal("a call changed what is behind a list of its document")
-			}
-			for _, x := range d.Defs[i].Sels {
-				if x.Args[:len(x.Args)+1][len(x.Args)].Name != "behind" || x.Sels[:len(x.Sels)+1][len(x.Sels)].Name != "behind" {
-					t.Fatal("a call wrote behind a list of a selection")
-				}
-			}
-		}
+		wantRoomAsItWas(t, d)
 	}
 	if !reflect.DeepEqual(tidySchema(plain), tidySchema(plainTypes())) {
 		t.Error("a call changed its schema")
