@@ -150,23 +150,60 @@ func TestStoresThatAreNotRight(t *testing.T) {
 	}
 }
 
+// wantFull fails unless WriteAll answers ErrFull, hour 0 and the store as it was, in memory of its own.
+func wantFull(t *testing.T, s impl.Store, list []impl.Put) {
+	t.Helper()
+	got, ts, code := impl.WriteAll(s, list)
+	if ts != 0 || code != impl.ErrFull {
+		t.Errorf("WriteAll of %.200v at Now %d = %d, %d", list, s.Now, ts, code)
+	}
+	wantStore(t, "WriteAll of a full store", got, s)
+	wantOwnMemory(t, "WriteAll of a full store", got, s)
+}
+
+// listsOfPuts are right: of nothing, of one, of more.
+func listsOfPuts() [][]impl.Put {
+	return [][]impl.Put{nil, {}, make([]impl.Put, 0, 3), {put(0, 0)}, {put(15, 8)}, {put(1, 8), put(0, 5)}, {put(4, 1), put(4, 2)}, manyPuts(400)}
+}
+
 func TestStoreThatIsFull(t *testing.T) {
 	last := wantWritten(t, storeAt(impl.MaxTime-1, plainMap()), impl.MaxTime, put(1, 2))
 	wantValue(t, last, 1, impl.MaxTime, 2)
 	wantValue(t, last, 1, impl.MaxTime-1, 8)
-	for _, s := range []impl.Store{last, storeAt(impl.MaxTime, nil), storeAt(impl.MaxTime, map[int][]impl.Version{0: fullChain(impl.MaxTime)})} {
-		for _, list := range [][]impl.Put{{put(0, 0)}, {put(1, 8), put(0, 5)}, manyPuts(400)} {
-			got, ts, code := impl.WriteAll(s, list)
-			if ts != 0 || code != impl.ErrFull {
-				t.Errorf("WriteAll of a full store = %d, %d", ts, code)
-			}
-			wantStore(t, "WriteAll of a full store", got, s)
-			wantOwnMemory(t, "WriteAll of a full store", got, s)
+	for _, s := range []impl.Store{last, storeAt(impl.MaxTime, nil), storeAt(impl.MaxTime, plainMap()), storeAt(impl.MaxTime, map[int][]impl.Version{0: fullChain(impl.MaxTime)})} {
+		for _, list := range listsOfPuts() {
+			wantFull(t, s, list)
 		}
-		wantNotWritten(t, s, []impl.Put{put(16, 0)}, impl.ErrRange)
-		// Nothing is written of nothing, for which no hour is needed.
-		wantStore(t, "WriteAll of nothing", wantWritten(t, s, impl.MaxTime), s)
 	}
+}
+
+// The hour ahead of MaxTime is the last one that can be written behind; nothing stays there.
+func TestStoreThatIsNearlyFull(t *testing.T) {
+	for _, s := range []impl.Store{storeAt(impl.MaxTime-1, nil), storeAt(impl.MaxTime-1, plainMap()), storeAt(impl.MaxTime-1, map[int][]impl.Version{0: fullChain(impl.MaxTime - 1)})} {
+		for _, list := range listsOfPuts() {
+			if len(list) == 0 {
+				same := wantWritten(t, s, impl.MaxTime-1, list...)
+				wantStore(t, "WriteAll of nothing", same, s)
+				continue
+			}
+			next := wantWritten(t, s, impl.MaxTime, list...)
+			wantValue(t, next, list[len(list)-1].Key, impl.MaxTime, list[len(list)-1].Value)
+			wantFull(t, next, nil)
+		}
+	}
+}
+
+// A store that is not right and a Put that is out of range are told ahead of the full store.
+func TestFaultsAheadOfFull(t *testing.T) {
+	s := storeAt(impl.MaxTime, plainMap())
+	for _, list := range [][]impl.Put{{put(16, 0)}, {put(-1, 0)}, {put(1, 9)}, {put(0, impl.MaxInt+1)}, {put(0, 1), put(3, -1)}, manyPuts(401)} {
+		wantNotWritten(t, s, list, impl.ErrRange)
+	}
+	wrong := storeWith(impl.MaxTime, 1, impl.Version{Ts: 1, Value: 9})
+	for _, list := range [][]impl.Put{nil, {}, {put(0, 1)}, {put(16, 0)}} {
+		wantNotWritten(t, wrong, list, impl.ErrBad)
+	}
+	wantNotWritten(t, s, manyPuts(impl.MaxList+1), impl.ErrLong)
 }
 
 // plainMap are plainStore's chains under their keys.
