@@ -31,6 +31,8 @@ func tidyAnswers(answers []any) (out []any) {
 		switch y := x.(type) {
 		case impl.Store:
 			x = tidyStore(y)
+		case impl.Txn:
+			x = tidyTxn(y)
 		case []int:
 			x = append([]int(nil), y...)
 		}
@@ -100,17 +102,8 @@ func TestKeysAndHoursOutOfRange(t *testing.T) {
 }
 
 func TestPutsOutOfRange(t *testing.T) {
-	var wrong []impl.Put
-	for _, key := range []int{-1, -2, 16, 17, 18, 1 << 33, tinyInt, hugeInt} {
-		wrong = append(wrong, put(key, 0), put(key, 1))
-	}
-	for key := range 16 {
-		for _, value := range wrongPuts(key) {
-			wrong = append(wrong, put(key, value))
-		}
-	}
 	for _, s := range []impl.Store{impl.NewStore(), plainStore(), storeAt(impl.MaxTime, nil)} {
-		for _, p := range wrong {
+		for _, p := range putsOutOfRange() {
 			right := put(2, 1)
 			for _, list := range [][]impl.Put{{p}, {p, right}, {right, p}, {right, p, right}, append(manyPuts(399), p), {p, put(p.Key, 0)}, {put(0, 0), p, put(0, 0)}} {
 				wantNotWritten(t, s, list, impl.ErrRange)
