@@ -141,18 +141,42 @@ func wantNoRightRun(t *testing.T, d impl.Doc, right impl.Run) {
 	}
 }
 
-// An answer is what DataText tells, which tells no more paths than a list may have.
+// A run has any number of errors: no chapter bounds a list within it. DataText's own list is bounded.
 func TestAnswersOfManyErrors(t *testing.T) {
-	paths := slices.Repeat([]string{"a.0"}, impl.MaxList)
-	r := impl.Run{Need: -1, Out: outInt(1), Writes: []impl.Put{put(0, 1)}, Errors: paths}
-	wantAnswer(t, aQuery(), r, `{"data":1,`+errorsText(paths...)+`}`)
-	wantAnswer(t, aMutation(), r, `{"data":null,`+errorsText(paths...)+`}`)
-	wantWrites(t, aQuery(), r)
-	r.Errors = append(r.Errors, "b")
-	if text, code := impl.AnswerOf(aQuery(), r); text != "" || code != impl.ErrLong {
-		t.Errorf("AnswerOf of %d errors = %.100q, %d", len(r.Errors), text, code)
+	for _, n := range []int{impl.MaxList - 1, impl.MaxList, impl.MaxList + 1, 5000, 3 * impl.MaxList} {
+		for _, paths := range [][]string{slices.Repeat([]string{"a"}, n), append(slices.Repeat([]string{"a.0.b"}, n-1), "last.0")} {
+			r := impl.Run{Need: -1, Out: outInt(1), Writes: []impl.Put{put(0, 1)}, Errors: paths}
+			wantAnswer(t, aQuery(), r, `{"data":1,`+errorsText(paths...)+`}`)
+			wantAnswer(t, aMutation(), r, `{"data":null,`+errorsText(paths...)+`}`)
+			wantWrites(t, aQuery(), r)
+			wantWrites(t, aMutation(), r)
+			for _, d := range []impl.Doc{aQuery(), aMutation()} {
+				wantNoEndOfMany(t, d, r)
+			}
+			if n > impl.MaxList {
+				wantNoData(t, "many paths", r.Out, impl.ErrLong, paths...)
+			} else {
+				wantData(t, r.Out, `{"data":1,`+errorsText(paths...)+`}`, paths...)
+			}
+		}
 	}
-	wantWrites(t, aQuery(), r)
-	r.Errors[7] = "a..b"
-	wantNoEnd(t, "many paths, one of which is none", aQuery(), r, impl.ErrBad)
+}
+
+// wantNoEndOfMany spoils a right run of many errors: by what it needs, and by one that is no path, wherever it stands.
+func wantNoEndOfMany(t *testing.T, d impl.Doc, right impl.Run) {
+	t.Helper()
+	for _, need := range []int{2, 0, -2} {
+		r := right
+		r.Need = need
+		wantNoEnd(t, "a run of many errors that needs something", d, r, impl.ErrNone)
+		for _, at := range []int{0, len(r.Errors) / 2, len(r.Errors) - 1} {
+			r.Errors = slices.Clone(right.Errors)
+			r.Errors[at] = "a..b"
+			r.Need = need
+			wantNoEnd(t, "many paths, one of which is none, and a need", d, r, impl.ErrBad)
+			r.Need = -1
+			wantNoEnd(t, "many paths, one of which is none", d, r, impl.ErrBad)
+		}
+	}
+	wantNoEnd(t, "many errors of what is no document", impl.Doc{}, right, impl.ErrBad)
 }

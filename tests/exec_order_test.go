@@ -32,12 +32,12 @@ func TestThingsThatAreReadTwice(t *testing.T) {
 func TestReadingAndArguments(t *testing.T) {
 	wantRun(t, "{ node(id: 1) { plus(by: $n) } }", nil, "needs 2")
 	wantRun(t, "{ node(id: 1) { plus(by: $n) } }", []int{5}, `reads [2] {"node":{"plus":null}} errors [node.plus]`)
-	wantRun(t, "mutation { add(id: 1 by: $n) { value } }", nil, "null errors [add]")
+	wantRun(t, "mutation { add(id: 1 by: $n) { value } }", nil, `{"add":null} errors [add]`)
 	wantRun(t, "mutation { add(id: 1 by: $x) { value } }", nil, "needs 2")
-	wantRun(t, "mutation { add(id: 8 by: $x) { value } }", nil, "null errors [add]")
-	wantRun(t, "mutation { add(id: 1 by: $b) { value } }", []int{1}, "reads [2] null errors [add]")
-	wantRun(t, "mutation { set(id: 1 value: $n) { next { id } } }", nil, "null errors [set]")
-	wantRun(t, "mutation { link(id: 1 to: $z) { value } }", nil, "null errors [link]")
+	wantRun(t, "mutation { add(id: 8 by: $x) { value } }", nil, `{"add":null} errors [add]`)
+	wantRun(t, "mutation { add(id: 1 by: $b) { value } }", []int{1}, `reads [2] {"add":null} errors [add]`)
+	wantRun(t, "mutation { set(id: 1 value: $n) { next { id } } }", nil, `{"set":null} errors [set]`)
+	wantRun(t, "mutation { link(id: 1 to: $z) { value } }", nil, `{"link":null} errors [link]`)
 	wantRun(t, "{ node(id: $n) { value } must(id: 8) { value } }", nil, "null errors [node must]")
 }
 
@@ -63,33 +63,13 @@ func TestWhatWasWrittenIsReadBack(t *testing.T) {
 // Each field of a mutation runs on what those ahead left, also on what fields with errors left: a
 // write that is refused leaves nothing, one whose node is null then leaves what it wrote.
 func TestFieldsBehindErrors(t *testing.T) {
-	wantRun(t, "mutation { a: add(id: 1 by: 1) { id } b: add(id: 1 by: 0) { value } }", []int{impl.MaxInt, 3}, "reads [2 2] null errors [a]")
-	wantRun(t, "mutation { a: set(id: 1 value: $n) { id } b: add(id: 1 by: 0) { value } }", []int{3}, "reads [2] null errors [a]")
-	wantRun(t, "mutation { a: link(id: 1 to: 8) { id } b: set(id: 1 value: 0) { next { id } } }", []int{3}, "reads [3] null errors [a]")
-	wantRun(t, "mutation { a: set(id: 1 value: 5) { need { id } } b: add(id: 1 by: 1) { value } }", []int{0}, "reads [3] null errors [a.need]")
-	wantRun(t, "mutation { a: link(id: 1) { need { id } } b: set(id: 1 value: 1) { need { id } value } }", nil, "null errors [a.need b.need]")
-	wantRun(t, "mutation { a: set(id: 1 value: 5) { plus(by: $b) value } b: add(id: 1 by: $b) { id } c: add(id: 1 by: 1) { plus(by: $n) } d: set(id: 8 value: 1) { id } }", nil, "null errors [a.plus b c.plus d]")
-}
-
-// Of a mutation with an error nothing is written, and its data is null; without one all is.
-func TestMutationsWithErrors(t *testing.T) {
-	writes := "set(id: 0 value: 1) { id } link(id: 1 to: 1) { id }"
-	wantRun(t, "mutation { "+writes+" }", nil, `writes [{0 1} {3 2}] {"set":{"id":0},"link":{"id":1}}`)
-	for field, path := range map[string]string{
-		"e: set(id: 8 value: 1) { id }": "e", "e: set(id: 2 value: $n) { id }": "e", "e: set(id: $n value: 2) { id }": "e", "e: add(id: -1 by: 1) { id }": "e", "e: add(id: 1 by: $n) { id }": "e", "e: set(id: 5 value: $b) { plus(by: 1) }": "e.plus",
-		"e: link(id: 8) { id }": "e", "e: link(id: 1 to: -1) { id }": "e", "e: link(id: 1 to: $z) { id }": "e", "e: set(id: 0 value: 1) { plus(by: $b) }": "e.plus", "e: link(id: 3) { need { id } }": "e.need", "e: link(id: 3 to: 3) { next { n: next { p: plus(by: $n) } } }": "e.next.n.p",
-	} {
-		log, reads := []int(nil), ""
-		if path == "e.next.n.p" {
-			log, reads = []int{4}, "reads [6] "
-		}
-		for _, set := range []string{field + " " + writes, writes + " " + field, strings.Replace(writes, " link", " "+field+" link", 1), "... { " + field + " } " + writes, writes + " ... on Mutation { " + field + " }"} {
-			wantRun(t, "mutation { "+set+" }", log, reads+"null errors ["+path+"]")
-		}
-	}
-	// A node that is null without an error, as a log may tell it, is no error.
-	wantRun(t, "mutation { set(id: 1 value: 5) { need { id } } }", []int{9}, `reads [3] writes [{2 5}] {"set":null}`)
-	wantRun(t, "mutation { set(id: 1 value: 5) { next { id } } }", []int{0}, `reads [3] writes [{2 5}] {"set":{"next":null}}`)
+	wantRun(t, "mutation { a: add(id: 1 by: 1) { id } b: add(id: 1 by: 0) { value } }", []int{impl.MaxInt, 3}, `reads [2 2] writes [{2 3}] {"a":null,"b":{"value":3}} errors [a]`)
+	wantRun(t, "mutation { a: set(id: 1 value: $n) { id } b: add(id: 1 by: 0) { value } }", []int{3}, `reads [2] writes [{2 3}] {"a":null,"b":{"value":3}} errors [a]`)
+	wantRun(t, "mutation { a: link(id: 1 to: 8) { id } b: set(id: 1 value: 0) { next { id } } }", []int{3}, `reads [3] writes [{2 0}] {"a":null,"b":{"next":{"id":2}}} errors [a]`)
+	wantRun(t, "mutation { a: set(id: 1 value: 5) { need { id } } b: add(id: 1 by: 1) { value } }", []int{0}, `reads [3] writes [{2 5} {2 6}] {"a":null,"b":{"value":6}} errors [a.need]`)
+	wantRun(t, "mutation { a: link(id: 1) { need { id } } b: set(id: 1 value: 1) { need { id } value } }", nil, `writes [{3 0} {2 1}] {"a":null,"b":null} errors [a.need b.need]`)
+	wantRun(t, "mutation { a: set(id: 1 value: 5) { plus(by: $b) value } b: add(id: 1 by: $b) { id } c: add(id: 1 by: 1) { plus(by: $n) } d: set(id: 8 value: 1) { id } }", nil,
+		`writes [{2 5} {2 6}] {"a":{"plus":null,"value":5},"b":null,"c":{"plus":null},"d":null} errors [a.plus b c.plus d]`)
 }
 
 // A query with an error has its data all the same.

@@ -194,12 +194,6 @@ func runOfLog(d impl.Doc, vars []impl.Binding, log []int) (string, int) {
 	case len(x.reads) > len(log):
 		return runTold(impl.Run{Need: x.reads[len(log)], Reads: x.reads[:len(log)]}), impl.OK
 	}
-	if len(x.errors) > 0 {
-		x.writes = nil
-		if on == "Mutation" {
-			data = "null"
-		}
-	}
 	told := runTold(impl.Run{Need: -1, Reads: x.reads, Writes: x.writes, Errors: x.errors})
 	// runTold has the data ahead of the errors; here it is empty, so that null stands in its place.
 	head, tail, _ := strings.Cut(told, "null")
@@ -319,7 +313,7 @@ func TestRandomReplays(t *testing.T) {
 			}
 		}
 	}
-	for _, word := range []string{"wrote", "errors", "read"} {
+	for _, word := range []string{"wrote", "errors", "read", "refused"} {
 		if came[word] < 20 {
 			t.Errorf("runs that %s came %d times only", word, came[word])
 		}
@@ -341,6 +335,10 @@ func replayBeside(t *testing.T, s impl.Store, l *ledger, d impl.Doc, came map[st
 	data, _ := impl.OutText(r.Out)
 	want := `{"data":` + data + `}`
 	if len(r.Errors) > 0 {
+		if op, _ := impl.OpOf(d); op.Kind == impl.DeMutation {
+			data = "null"
+			came["refused"] += len(r.Writes)
+		}
 		want = `{"data":` + data + `,` + errorsText(r.Errors...) + `}`
 		came["errors"]++
 	} else if len(r.Writes) > 0 {

@@ -196,7 +196,7 @@ func TestNextAndNeed(t *testing.T) {
 func TestSet(t *testing.T) {
 	for _, id := range numberArgs() {
 		for _, value := range numberArgs() {
-			want := "null errors [a]"
+			want := `{"a":null} errors [a]`
 			if id.isNode() && value.told {
 				want = fmt.Sprintf(`writes [{%d %d}] {"a":{"id":%d,"value":%d}}`, 2*id.n, value.n, id.n, value.n)
 			}
@@ -212,11 +212,11 @@ func TestAdd(t *testing.T) {
 			text := "mutation { a: add(id: " + id.text + " by: " + by.text + ") { id value } }"
 			// What is no node's, and what is no number, is told ahead of reading.
 			if !id.isNode() || !by.told {
-				wantRun(t, text, nil, "null errors [a]")
+				wantRun(t, text, nil, `{"a":null} errors [a]`)
 				continue
 			}
 			for _, n := range edgeNumbers() {
-				want := fmt.Sprintf("reads [%d] null errors [a]", 2*id.n)
+				want := fmt.Sprintf(`reads [%d] {"a":null} errors [a]`, 2*id.n)
 				if sum, right := sumTold(n, by); right {
 					want = fmt.Sprintf(`reads [%d] writes [{%d %d}] {"a":{"id":%d,"value":%d}}`, 2*id.n, 2*id.n, sum, id.n, sum)
 				}
@@ -229,7 +229,7 @@ func TestAdd(t *testing.T) {
 func TestLink(t *testing.T) {
 	for _, id := range numberArgs() {
 		for _, to := range append(numberArgs(), numberArg{text: "null"}) {
-			want := "null errors [a]"
+			want := `{"a":null} errors [a]`
 			switch {
 			case id.isNode() && to.isNode():
 				want = fmt.Sprintf(`writes [{%d %d}] {"a":{"id":%d,"next":{"id":%d}}}`, 2*id.n+1, to.n+1, id.n, to.n)
@@ -239,13 +239,13 @@ func TestLink(t *testing.T) {
 			wantRun(t, "mutation { a: link(id: "+id.text+" to: "+to.text+") { id next { id } } }", nil, want)
 			wantRun(t, "mutation { a: link(to: "+to.text+" id: "+id.text+") { id next { id } } }", nil, want)
 		}
-		want := "null errors [link]"
+		want := `{"link":null} errors [link]`
 		if id.isNode() {
 			want = fmt.Sprintf(`writes [{%d 0}] {"link":{"id":%d,"next":null}}`, 2*id.n+1, id.n)
 		}
 		wantRun(t, "mutation { link(id: "+id.text+") { id next { id } } }", nil, want)
 	}
-	wantRun(t, "mutation { link(id: 2) { need { id } } }", nil, "null errors [link.need]")
+	wantRun(t, "mutation { link(id: 2) { need { id } } }", nil, `writes [{5 0}] {"link":null} errors [link.need]`)
 	wantRun(t, "mutation { link(id: 2 to: 2) { need { need { need { id } } } } }", nil, `writes [{5 3}] {"link":{"need":{"need":{"need":{"id":2}}}}}`)
 }
 
