@@ -227,21 +227,26 @@ func wantBadRuns(t *testing.T, what string, d impl.Doc, vars []impl.Binding) {
 	wantNoReplay(t, what, plainStore(), d, vars, impl.ErrBad)
 }
 
-func TestRunsOfWhatIsNotRight(t *testing.T) {
+// eachWrong hands on documents and variables of which one is not right.
+func eachWrong(look func(what string, d impl.Doc, vars []impl.Binding)) {
 	for _, x := range wrongSels() {
-		wantBadRuns(t, "a wrong selection", docWith(x), runVars())
-		wantBadRuns(t, "a wrong selection", docOf(query("", field("size")), fragment("f", "Node", field("id"), inline("", x))), nil)
+		look("a wrong selection", docWith(x), runVars())
+		look("a wrong selection", docOf(query("", field("size")), fragment("f", "Node", field("id"), inline("", x))), nil)
 	}
 	for _, def := range wrongDefs() {
-		wantBadRuns(t, "a wrong definition", docOf(query("", field("size")), def), nil)
+		look("a wrong definition", docOf(query("", field("size")), def), nil)
 	}
 	for _, d := range endlessDocs() {
-		wantBadRuns(t, "an endless document", d, runVars())
+		look("an endless document", d, runVars())
 	}
 	for _, vars := range wrongBindings() {
-		wantBadRuns(t, "wrong variables", docWith(field("size")), vars)
-		wantBadRuns(t, "wrong variables", docWith(field("nothing")), vars)
+		look("wrong variables", docWith(field("size")), vars)
+		look("wrong variables", docWith(field("nothing")), vars)
 	}
+}
+
+func TestRunsOfWhatIsNotRight(t *testing.T) {
+	eachWrong(func(what string, d impl.Doc, vars []impl.Binding) { wantBadRuns(t, what, d, vars) })
 	for _, s := range wrongStores() {
 		wantNoAtomic(t, "a wrong store", s, s.Now, docWith(field("size")), nil, impl.ErrBad)
 		wantNoReplay(t, "a wrong store", s, docWith(field("size")), nil, impl.ErrBad)

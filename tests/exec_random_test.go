@@ -42,13 +42,13 @@ func (v toldValue) told() string {
 	return v.text
 }
 
-// A toldRun is chapter 10 told again. Its log has no end: behind what was handed in it tells noughts,
-// and where the run stopped is worked out when it is over.
+// A toldRun is chapter 10 told again. It does not stop: tell has something of each key and
+// place, and where the log ended is worked out when the run is over.
 type toldRun struct {
 	doc    impl.Doc
 	values map[string]impl.Value
 	vars   []impl.Binding
-	log    []int
+	tell   func(key, place int) int
 	reads  []int
 	kept   map[int]int
 	writes []impl.Put
@@ -60,10 +60,7 @@ func (x *toldRun) read(key int) int {
 		return n
 	}
 	x.reads = append(x.reads, key)
-	if len(x.reads) > len(x.log) {
-		return 0
-	}
-	return x.log[len(x.reads)-1]
+	return x.tell(key, len(x.reads)-1)
 }
 
 func (x *toldRun) write(key, value int) {
@@ -175,9 +172,9 @@ func (x *toldRun) field(on string, id int, f impl.Sel, within []impl.Sel, path [
 	return node(given.N)
 }
 
-// runOfLog is what Execute answers to a document that can be run, in one line as runTold has it, or a code.
-func runOfLog(d impl.Doc, vars []impl.Binding, log []int) (string, int) {
-	x := &toldRun{doc: d, values: map[string]impl.Value{}, vars: vars, log: log, kept: map[int]int{}}
+// toldRunOf is a run to its end, and the text of its data.
+func toldRunOf(d impl.Doc, vars []impl.Binding, tell func(key, place int) int) (*toldRun, string) {
+	x := &toldRun{doc: d, values: map[string]impl.Value{}, vars: vars, tell: tell, kept: map[int]int{}}
 	for _, b := range vars {
 		x.values[b.Name] = b.Value
 	}
@@ -187,7 +184,17 @@ func runOfLog(d impl.Doc, vars []impl.Binding, log []int) (string, int) {
 			on, set = []string{"", "Query", "Mutation"}[f.Kind], f.Sels
 		}
 	}
-	data := x.object(on, 0, set, nil).told()
+	return x, x.object(on, 0, set, nil).told()
+}
+
+// runOfLog is what Execute answers to a document that can be run, in one line as runTold has it, or a code.
+func runOfLog(d impl.Doc, vars []impl.Binding, log []int) (string, int) {
+	x, data := toldRunOf(d, vars, func(_, place int) int {
+		if place < len(log) {
+			return log[place]
+		}
+		return 0
+	})
 	switch {
 	case len(x.reads) < len(log):
 		return "", impl.ErrMany

@@ -85,15 +85,21 @@ func (c *crowd) step() {
 
 // forget lets go what none of those that are open can read.
 func (c *crowd) forget() {
-	low := c.s.Now
+	var starts []int
 	for _, x := range c.open {
-		low = min(low, x.start)
+		starts = append(starts, x.start)
 	}
-	rest, _, code := impl.Forget(c.s, low)
+	c.s = forgotten(c.t, c.s, starts...)
+}
+
+// forgotten is the store without what nobody can read who began at one of the hours, or begins now.
+func forgotten(t *testing.T, s impl.Store, starts ...int) impl.Store {
+	t.Helper()
+	rest, _, code := impl.Forget(s, slices.Min(append(starts, s.Now)))
 	if code != impl.OK {
-		c.t.Fatal("Forget", code)
+		t.Fatal("Forget", code)
 	}
-	c.s = rest
+	return rest
 }
 
 func (c *crowd) end(x *session) {
