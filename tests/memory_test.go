@@ -47,17 +47,19 @@ func (s span) meets(o span) bool { return s.first < o.end && o.first < s.end }
 func wantOwnMemory(t *testing.T, what string, answer any, others ...any) {
 	t.Helper()
 	own := spansOf(answer)
+	var taken []span
+	for _, other := range others {
+		taken = append(taken, spansOf(other)...)
+	}
 	for i, s := range own {
 		for _, o := range own[:i] {
 			if s.list && o.list && s.meets(o) {
 				t.Errorf("%s: two lists of the answer share memory", what)
 			}
 		}
-		for _, other := range others {
-			for _, o := range spansOf(other) {
-				if s.meets(o) {
-					t.Errorf("%s: the answer shares memory with what is not its own", what)
-				}
+		for _, o := range taken {
+			if s.meets(o) {
+				t.Errorf("%s: the answer shares memory with what is not its own", what)
 			}
 		}
 	}
